@@ -131,9 +131,9 @@ func TestElsewhere(t *testing.T) {
 // TestThrown: W1: any wrappers about any part, and what follows of it.
 func TestThrown(t *testing.T) {
 	dice := rand.New(rand.NewSource(73))
-	all20 := bases(t)
+	basic := bases(t)
 	for i := range 1500 {
-		base := all20[i%len(all20)]
+		base := basic[i%len(basic)]
 		can := part.Can(base)
 		l := thrown(dice, 16)
 		p, e := All(base, l)
@@ -161,20 +161,15 @@ func TestThrown(t *testing.T) {
 // TestNothingElse: a WrapName changes nothing but the name, a WrapPad but what is measured and painted; and what is measured grows by all pads.
 func TestNothingElse(t *testing.T) {
 	dice := rand.New(rand.NewSource(74))
-	all20 := bases(t)
+	basic := bases(t)
 	for i := range 300 {
-		base := all20[i%len(all20)]
+		base := basic[i%len(basic)]
 		l := thrown(dice, 14)
-		m := model{base, part.Can(base), l}
-		if m.hollow() {
-			continue
+		if (model{base, part.Can(base), l}).hollow() {
+			continue // a wrapper about it is of another kind
 		}
 		p := all(t, base, l...)
-		if m.wrappers() > 14 {
-			continue
-		}
 		q := all(t, p, named("other"))
-		m.l = l
 		if q.Name() != "other" || q.Kind() != p.Kind() || part.Can(q) != part.Can(p) {
 			t.Fatalf("a WrapName about %v: %q, %d, %d", l, q.Name(), q.Kind(), part.Can(q))
 		}
